@@ -430,6 +430,35 @@ func TestDecodeEachValueOfEachField(t *testing.T) {
 	}
 }
 
+func TestEncodeAndDecodeID(t *testing.T) {
+	tests := []struct {
+		id uint64
+		s  string
+	}{
+		{0, "\x00\x00\x00\x00\x00\x00\x00\x00"},
+		{258, "\x00\x00\x00\x00\x00\x00\x01\x02"},
+		{0xfedcba9876543210, "\xfe\xdc\xba\x98\x76\x54\x32\x10"},
+		{math.MaxUint64, "\xff\xff\xff\xff\xff\xff\xff\xff"},
+	}
+	for _, test := range tests {
+		if got := EncodeID(test.id); got != test.s || len(got) != IDSize {
+			t.Errorf("EncodeID(%d) = %q, want %q", test.id, got, test.s)
+		}
+		if got := DecodeID(test.s); got != test.id {
+			t.Errorf("DecodeID(%q) = %d, want %d", test.s, got, test.id)
+		}
+		if got := DecodeID("\x01" + test.s); got != test.id {
+			t.Errorf("DecodeID of a further byte and %q = %d, want %d", test.s, got, test.id)
+		}
+	}
+	if got := DecodeID("\x01\x02"); got != 258 {
+		t.Errorf("DecodeID of two bytes = %d", got)
+	}
+	if got := DecodeID(""); got != 0 {
+		t.Errorf("DecodeID of no bytes = %d", got)
+	}
+}
+
 // P2: neither the Ins nor the unused capacity behind them are changed.
 func TestArgumentsUnchanged(t *testing.T) {
 	for n := range 11 {
