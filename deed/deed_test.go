@@ -459,6 +459,46 @@ func TestEncodeAndDecodeID(t *testing.T) {
 	}
 }
 
+func TestSpends(t *testing.T) {
+	for n := range 9 {
+		d := plain(inputs(n)...)
+		for id := uint64(998); id < 1012; id++ {
+			if got, want := Spends(d, id), id >= 1000 && id < 1000+uint64(n); got != want {
+				t.Errorf("Spends(%v, %d) = %v", d, id, got)
+			}
+		}
+	}
+	// The index does not matter, nor whether there are errors.
+	d := api.Deed{Ins: []api.In{{ID: 0, At: 99}, {ID: math.MaxUint64, At: -1}}}
+	for id, want := range map[uint64]bool{0: true, math.MaxUint64: true, 99: false, 1: false, 1 << 63: false} {
+		if got := Spends(d, id); got != want {
+			t.Errorf("Spends(%v, %d) = %v", d, id, got)
+		}
+	}
+	if Spends(api.Deed{}, 0) {
+		t.Error("a transaction without Ins spends an output")
+	}
+}
+
+func TestClone(t *testing.T) {
+	for n := range 11 {
+		whole := append(inputs(12), api.In{ID: 1, At: 99})
+		d := api.Deed{Ins: whole[:n], Outs: -3, Weight: 4, Fee: 5}
+		got := Clone(d)
+		want := api.Deed{Ins: inputs(n), Outs: -3, Weight: 4, Fee: 5}
+		if !same(got, want) || !same(d, want) {
+			t.Errorf("Clone(%+v) = %+v", want, got)
+		}
+		again := Clone(d)
+		for i := range got.Ins[:cap(got.Ins)] {
+			got.Ins[:cap(got.Ins)][i] = api.In{ID: 1, At: 1}
+		}
+		if !slices.Equal(whole, append(inputs(12), api.In{ID: 1, At: 99})) || !same(again, want) {
+			t.Errorf("the clone of %+v shares memory", want)
+		}
+	}
+}
+
 // P2: neither the Ins nor the unused capacity behind them are changed.
 func TestArgumentsUnchanged(t *testing.T) {
 	for n := range 11 {
